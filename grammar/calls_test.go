@@ -1,6 +1,7 @@
 package grammar_test
 
 import (
+	"fmt"
 	"math"
 	"strings"
 	"testing"
@@ -12,6 +13,7 @@ import (
 // The texts that P1's tests begin with: well written ones and wrong ones.
 var texts = []string{
 	"", "a", "a <- 'x'", "a <- b b <- 'x'", "a <- a", "a <- ''*", "a <- ('x'* {}*)*", "a <- 'x' a <- 'y'", "a <- (", "a <- 'x", "a <- [b-a]",
+	"a <- b a1 c b <- c? 'x' c <- 'y' / !d 'z' d <- e e <- f f <- g g <- h h <- i i <- j j <- k k <- '' a1 <- k",
 	"a <- {'x'*} {} {n: 'y'?}", "s <- {'a' s? 'b'}", "s <- 'a' s 'a' / 'a'", "a <- b / c b <- a c <- b",
 	"sum <- {s: prod (('+' / '-') prod)*}\nprod <- {p: atom ([*/] atom)*}\natom <- {[0-9]+} / '(' sum ')'\n",
 }
@@ -145,6 +147,38 @@ func TestNoGrammarHangsOnAnother(t *testing.T) {
 		}
 		if again := tell(kept[i], first[i].e, first[i].at); !same(again, first[i]) {
 			t.Errorf("P1: the grammar of %q answers %v, and then %v", texts[i], first[i], again)
+		}
+	}
+}
+
+// Lists of the rules of one grammar and of another, written into and grown in
+// turn: each holds what its own caller wrote, and a new one the names.
+func TestListsAreApart(t *testing.T) {
+	for n := 1; n <= api.MaxRules; n++ {
+		s, names := ofRules(n)
+		x, _, _ := grammar.Compile(s)
+		y, _, _ := grammar.Compile(s)
+		var lists [][]string
+		for k := 0; k < 6; k++ {
+			list := x.Rules()
+			if k%2 == 1 {
+				list = y.Rules()
+			}
+			if strings.Join(list, " ") != strings.Join(names, " ") {
+				t.Fatalf("P1: the rules of %q are %q", s, list)
+			}
+			mine := fmt.Sprintf("of list %d", k)
+			for i := range list {
+				list[i] = mine
+			}
+			lists = append(lists, append(list, mine))
+		}
+		for k, list := range lists {
+			for i := range list {
+				if list[i] != fmt.Sprintf("of list %d", k) {
+					t.Errorf("P1: into list %d of the rules of %q was written %q", k, s, list[i])
+				}
+			}
 		}
 	}
 }

@@ -13,20 +13,23 @@ type parser struct {
 	depth int // brackets that are open
 }
 
-// parse tells what is wrong with a text by tokens and rules, and where.
-func parse(s string) (api.Errno, int) {
+// parse answers the rules of a text, or what is wrong with it by tokens and
+// rules, and where.
+func parse(s string) ([]rule, api.Errno, int) {
 	if len(s) > api.MaxText {
-		return api.ErrLong, 0
+		return nil, api.ErrLong, 0
 	}
 	first := token.Next(s, 0)
 	p := parser{text: s, tok: first}
+	var rules []rule
 	for p.tok.Kind != token.End {
-		e := p.rule()
+		r, e := p.rule()
 		if e != api.OK {
-			return e, p.tok.From
+			return nil, e, p.tok.From
 		}
+		rules = append(rules, r)
 	}
-	return api.OK, 0
+	return rules, api.OK, 0
 }
 
 func (p *parser) step() {
@@ -52,33 +55,52 @@ func (p *parser) nameBefore(kind token.Kind) bool {
 	return behind.Kind == kind
 }
 
-func (p *parser) rule() api.Errno {
+func (p *parser) rule() (rule, api.Errno) {
+	name := p.tok
 	e := p.take(token.Name)
 	if e != api.OK {
-		return e
+		return rule{}, e
 	}
 	e = p.take(token.Arrow)
 	if e != api.OK {
-		return e
+		return rule{}, e
 	}
-	return p.expression()
+	body, e := p.expression()
+	if e != api.OK {
+		return rule{}, e
+	}
+	return rule{name: name.Of(p.text), at: name.From, body: body}, api.OK
 }
 
-func (p *parser) expression() api.Errno {
-	e := p.row()
+// expression answers a choice, even of one row.
+func (p *parser) expression() (node, api.Errno) {
+	first, e := p.row()
+	rows := []node{first}
 	for e == api.OK && p.tok.Kind == token.Slash {
 		p.step()
-		e = p.row()
+		next, wrong := p.row()
+		rows = append(rows, next)
+		e = wrong
 	}
-	return e
+	if e != api.OK {
+		return node{}, e
+	}
+	return node{kind: choiceNode, kids: rows}, api.OK
 }
 
-func (p *parser) row() api.Errno {
-	e := api.OK
-	for e == api.OK && p.atItem() {
-		e = p.item()
+// row answers a row, even of one item.
+func (p *parser) row() (node, api.Errno) {
+	var items []node
+	begins := p.atItem()
+	for begins {
+		next, e := p.item()
+		if e != api.OK {
+			return node{}, e
+		}
+		items = append(items, next)
+		begins = p.atItem()
 	}
-	return e
+	return node{kind: rowNode, kids: items}, api.OK
 }
 
 // atItem tells whether the token here begins an item. A name that begins a
@@ -94,55 +116,128 @@ func (p *parser) atItem() bool {
 	return false
 }
 
-func (p *parser) item() api.Errno {
-	for p.tok.Kind == token.And || p.tok.Kind == token.Not {
-		p.step()
+func (p *parser) item() (node, api.Errno) {
+	switch p.tok.Kind {
+	case token.And:
+		return p.look(andNode)
+	case token.Not:
+		return p.look(notNode)
 	}
-	// Behind a & or ! anything may stand, so it is looked at anew.
+	return p.repeated()
+}
+
+// look is called at a & or !.
+func (p *parser) look(k kind) (node, api.Errno) {
+	p.step()
+	// Behind the sign anything may stand, so it is looked at anew.
 	begins := p.atItem()
 	if !begins {
-		return api.ErrSyntax
+		return node{}, api.ErrSyntax
 	}
-	e := p.single()
-	for e == api.OK && p.atRepeat() {
+	within, e := p.item()
+	if e != api.OK {
+		return node{}, e
+	}
+	return node{kind: k, kids: []node{within}}, api.OK
+}
+
+// repeated reads a single and the signs behind it, each of which goes for all
+// ahead of it.
+func (p *parser) repeated() (node, api.Errno) {
+	n, e := p.single()
+	if e != api.OK {
+		return node{}, e
+	}
+	for p.atRepeat() {
+		n = node{kind: repeatKind(p.tok.Kind), at: p.tok.From, kids: []node{n}}
 		p.step()
 	}
-	return e
+	return n, api.OK
 }
 
 func (p *parser) atRepeat() bool {
 	return p.tok.Kind == token.Star || p.tok.Kind == token.Plus || p.tok.Kind == token.Query
 }
 
-// single is called where an item begins that has no & or ! ahead.
-func (p *parser) single() api.Errno {
-	switch p.tok.Kind {
-	case token.Open:
-		return p.brackets(token.Close)
-	case token.OpenCatch:
-		return p.brackets(token.CloseCatch)
+// repeatKind answers the kind of node that a sign of repetition makes.
+func repeatKind(sign token.Kind) kind {
+	switch sign {
+	case token.Star:
+		return starNode
+	case token.Plus:
+		return plusNode
 	}
-	p.step()
-	return api.OK
+	return queryNode
 }
 
-// brackets is called at an opening bracket. It takes {} too, as brackets about
-// a row of no items.
-func (p *parser) brackets(closing token.Kind) api.Errno {
+// single is called where an item begins that has no & or ! ahead.
+func (p *parser) single() (node, api.Errno) {
+	tok := p.tok
+	switch tok.Kind {
+	case token.Open:
+		return p.brackets()
+	case token.OpenCatch:
+		return p.catch()
+	}
+	p.step()
+	switch tok.Kind {
+	case token.Name:
+		return node{kind: nameNode, at: tok.From, name: tok.Of(p.text)}, api.OK
+	case token.Word:
+		// The two quotes alone have two bytes, and any character has one more.
+		return node{kind: wordNode, empty: tok.To-tok.From == 2}, api.OK
+	}
+	return node{kind: byteNode}, api.OK
+}
+
+// open goes past an opening bracket.
+func (p *parser) open() api.Errno {
 	if p.depth >= api.MaxDepth {
 		return api.ErrDeep
 	}
 	p.depth++
 	p.step()
-	if closing == token.CloseCatch {
-		p.catchName()
-	}
-	e := p.expression()
+	return api.OK
+}
+
+// within reads what stands within brackets, and goes past the closing one.
+func (p *parser) within(closing token.Kind) (node, api.Errno) {
+	n, e := p.expression()
 	if e != api.OK {
-		return e
+		return node{}, e
+	}
+	e = p.take(closing)
+	if e != api.OK {
+		return node{}, e
 	}
 	p.depth--
-	return p.take(closing)
+	return n, api.OK
+}
+
+func (p *parser) brackets() (node, api.Errno) {
+	e := p.open()
+	if e != api.OK {
+		return node{}, e
+	}
+	return p.within(token.Close)
+}
+
+func (p *parser) catch() (node, api.Errno) {
+	e := p.open()
+	if e != api.OK {
+		return node{}, e
+	}
+	if p.tok.Kind == token.CloseCatch {
+		p.depth--
+		p.step()
+		return node{kind: placeNode}, api.OK
+	}
+	p.catchName()
+	n, e := p.within(token.CloseCatch)
+	if e != api.OK {
+		return node{}, e
+	}
+	return node{kind: partNode, kids: []node{n}}, api.OK
 }
 
 // catchName goes past the name of what is caught, if there is one.

@@ -36,6 +36,15 @@ type Token struct {
 	To   int
 }
 
+// Of answers the token's part of the text that it was read from; nothing of a
+// text that has no such part.
+func (t Token) Of(s string) string {
+	if t.From < 0 || t.From > t.To || t.To > len(s) {
+		return ""
+	}
+	return s[t.From:t.To]
+}
+
 // Next answers the first token of s from the place at on.
 func Next(s string, at int) Token {
 	from := skipBlanks(s, at)

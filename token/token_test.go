@@ -47,6 +47,21 @@ func TestNext(t *testing.T) {
 	}
 }
 
+func TestOf(t *testing.T) {
+	for _, f := range []struct {
+		tok  Token
+		s    string
+		want string
+	}{
+		{Token{Name, 1, 3}, "-ab-", "ab"}, {Token{Name, 0, 4}, "abcd", "abcd"}, {Token{End, 4, 4}, "abcd", ""}, {Token{}, "", ""},
+		{Token{Name, 1, 5}, "abcd", ""}, {Token{Name, 5, 5}, "abcd", ""}, {Token{Name, 3, 2}, "abcd", ""}, {Token{Name, -1, 2}, "abcd", ""}, {Token{Name, -2, -1}, "abcd", ""}, {Token{Name, math.MinInt, math.MaxInt}, "abcd", ""},
+	} {
+		if got := f.tok.Of(f.s); got != f.want {
+			t.Errorf("%v of %q is %q, want %q", f.tok, f.s, got, f.want)
+		}
+	}
+}
+
 func TestSigns(t *testing.T) {
 	kinds := []Kind{Slash, And, Not, Star, Plus, Query, Dot, Open, Close, OpenCatch, CloseCatch, Colon}
 	signs := "/&!*+?.(){}:"
