@@ -22,9 +22,9 @@ func (c *checker) findEmpty() {
 func (c *checker) mayBeEmpty(n node) bool {
 	switch n.kind {
 	case wordNode:
-		return n.empty
+		return n.text == ""
 	case nameNode:
-		i := find(c.rules, n.name)
+		i := find(c.rules, n.text)
 		return i >= 0 && c.rules[i].empty
 	case placeNode, andNode, notNode, starNode, queryNode:
 		return true
@@ -81,7 +81,7 @@ func (c *checker) findBegins() {
 // known of the rules.
 func (c *checker) mayBegin(n node) int {
 	if n.kind == nameNode {
-		i := find(c.rules, n.name)
+		i := find(c.rules, n.text)
 		if i < 0 {
 			return 0
 		}

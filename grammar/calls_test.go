@@ -74,6 +74,20 @@ func TestEveryCallEnds(t *testing.T) {
 	}
 }
 
+// What is no grammar has no rules, no text, and matches nothing.
+func TestCallsOnNoGrammar(t *testing.T) {
+	for _, x := range []*grammar.Grammar{nil, {}} {
+		if len(x.Rules()) != 0 || x.Text() != "" {
+			t.Errorf("P1: of no grammar the rules are %q and the text is %q", x.Rules(), x.Text())
+		}
+		for _, s := range []string{"", "x"} {
+			if to, caught, ok, e := x.Match(s, 0); to != 0 || caught != "" || ok || e != api.OK {
+				t.Errorf("P1: on no grammar: Match(%q, 0) = %d, %q, %v, %d", s, to, caught, ok, e)
+			}
+		}
+	}
+}
+
 func TestEveryCallEndsAtThrownTexts(t *testing.T) {
 	tokens := []string{"a ", "b ", "c ", "a <- ", "b <- ", "c <- ", "/ ", "& ", "! ", "* ", "+ ", "? ", ". ", "( ", ") ", "{ ", "} ", "{n: ", "'x' ", "'' ", "[^x] "}
 	var bytes []string

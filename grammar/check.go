@@ -63,7 +63,7 @@ func (c *checker) unknown() int {
 }
 
 func (c *checker) unknownIn(n node) int {
-	if n.kind == nameNode && find(c.rules, n.name) < 0 {
+	if n.kind == nameNode && find(c.rules, n.text) < 0 {
 		return n.at
 	}
 	for _, k := range n.kids {

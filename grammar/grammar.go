@@ -6,6 +6,7 @@ import "peg/api"
 // Grammar: of a text.
 type Grammar struct {
 	names []string // of the rules, in order
+	terms []term   // ahead the rules' expressions, in order
 }
 
 // Compile: the grammar of a text, or what is wrong with it, and where (P2, P3).
@@ -18,18 +19,7 @@ func Compile(s string) (*Grammar, api.Errno, int) {
 	if e != api.OK {
 		return nil, e, at
 	}
-	return &Grammar{names: namesOf(rules)}, api.OK, 0
-}
-
-// namesOf answers the names of rules. They are copied, since a part of a text
-// would keep the whole of it.
-func namesOf(rules []rule) []string {
-	names := make([]string, 0, len(rules))
-	for _, r := range rules {
-		name := []byte(r.name)
-		names = append(names, string(name))
-	}
-	return names
+	return build(rules), api.OK, 0
 }
 
 // Rules: the names of its rules, in order (P3). The list is a new one each
@@ -43,12 +33,4 @@ func (x *Grammar) Rules() []string {
 		names = append(names, name)
 	}
 	return names
-}
-
-// Text: its one text (P4).
-func (x *Grammar) Text() string { return "" }
-
-// Match: by the first rule, from a place on (P5, P6).
-func (x *Grammar) Match(s string, at int) (int, string, bool, api.Errno) {
-	return 0, "", false, api.OK
 }

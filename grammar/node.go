@@ -19,13 +19,33 @@ const (
 )
 
 // node is an expression or a part of one. Brackets ( ) have none of their own:
-// they do what stands within.
+// they do what stands within. Nor has a row or choice of just one: see joined.
 type node struct {
-	kind  kind
-	at    int    // in the text, of a name or a sign of repetition
-	name  string // of a nameNode
-	empty bool   // of a wordNode: it has no characters
-	kids  []node // what stands within, in the order of the text
+	kind kind
+	at   int    // in the text, of a name or a sign of repetition
+	text string // the bytes of a word or set, or the name; of braces the name of what they catch, if any
+	kids []node // what stands within, in the order of the text
+}
+
+// joined answers the row of items, or the choice of rows. A row that is an item
+// of a row gives it its own items, a choice that is a row of a choice likewise;
+// the row of no items does what the empty word does.
+func joined(k kind, list []node) node {
+	var kids []node
+	for _, n := range list {
+		if n.kind == k {
+			kids = append(kids, n.kids...)
+		} else {
+			kids = append(kids, n)
+		}
+	}
+	switch len(kids) {
+	case 0:
+		return node{kind: wordNode}
+	case 1:
+		return kids[0]
+	}
+	return node{kind: k, kids: kids}
 }
 
 // rule is a rule as it is written, and what a checker finds out about it.

@@ -72,7 +72,6 @@ func (p *parser) rule() (rule, api.Errno) {
 	return rule{name: name.Of(p.text), at: name.From, body: body}, api.OK
 }
 
-// expression answers a choice, even of one row.
 func (p *parser) expression() (node, api.Errno) {
 	first, e := p.row()
 	rows := []node{first}
@@ -85,10 +84,9 @@ func (p *parser) expression() (node, api.Errno) {
 	if e != api.OK {
 		return node{}, e
 	}
-	return node{kind: choiceNode, kids: rows}, api.OK
+	return joined(choiceNode, rows), api.OK
 }
 
-// row answers a row, even of one item.
 func (p *parser) row() (node, api.Errno) {
 	var items []node
 	begins := p.atItem()
@@ -100,7 +98,7 @@ func (p *parser) row() (node, api.Errno) {
 		items = append(items, next)
 		begins = p.atItem()
 	}
-	return node{kind: rowNode, kids: items}, api.OK
+	return joined(rowNode, items), api.OK
 }
 
 // atItem tells whether the token here begins an item. A name that begins a
@@ -182,12 +180,11 @@ func (p *parser) single() (node, api.Errno) {
 	p.step()
 	switch tok.Kind {
 	case token.Name:
-		return node{kind: nameNode, at: tok.From, name: tok.Of(p.text)}, api.OK
+		return node{kind: nameNode, at: tok.From, text: tok.Of(p.text)}, api.OK
 	case token.Word:
-		// The two quotes alone have two bytes, and any character has one more.
-		return node{kind: wordNode, empty: tok.To-tok.From == 2}, api.OK
+		return node{kind: wordNode, text: tok.Bytes(p.text)}, api.OK
 	}
-	return node{kind: byteNode}, api.OK
+	return node{kind: byteNode, text: tok.Bytes(p.text)}, api.OK
 }
 
 // open goes past an opening bracket.
@@ -232,20 +229,23 @@ func (p *parser) catch() (node, api.Errno) {
 		p.step()
 		return node{kind: placeNode}, api.OK
 	}
-	p.catchName()
+	name := p.catchName()
 	n, e := p.within(token.CloseCatch)
 	if e != api.OK {
 		return node{}, e
 	}
-	return node{kind: partNode, kids: []node{n}}, api.OK
+	return node{kind: partNode, text: name, kids: []node{n}}, api.OK
 }
 
-// catchName goes past the name of what is caught, if there is one.
-func (p *parser) catchName() {
+// catchName goes past the name of what is caught, and answers it, if there is
+// one.
+func (p *parser) catchName() string {
 	named := p.nameBefore(token.Colon)
 	if !named {
-		return
+		return ""
 	}
+	name := p.tok
 	p.step()
 	p.step()
+	return name.Of(p.text)
 }

@@ -1,4 +1,5 @@
-// Package token cuts a grammar's text into tokens: see DOC.md, 'Tokens'.
+// Package token cuts a grammar's text into tokens, and writes words and sets:
+// see DOC.md, 'Tokens' and P4.
 package token
 
 import "peg/api"
@@ -37,12 +38,14 @@ type Token struct {
 }
 
 // Of answers the token's part of the text that it was read from; nothing of a
-// text that has no such part.
+// text that has no such part. It is a copy, since a part of a text would keep
+// the whole of it.
 func (t Token) Of(s string) string {
 	if t.From < 0 || t.From > t.To || t.To > len(s) {
 		return ""
 	}
-	return s[t.From:t.To]
+	part := []byte(s[t.From:t.To])
+	return string(part)
 }
 
 // Next answers the first token of s from the place at on.
@@ -166,8 +169,8 @@ func readSet(s string, at int) (Kind, int) {
 	first := to
 	// A set has a member at least, so the first is asked for unseen.
 	for to == first || byteAt(s, to) != ']' {
-		next := readMember(s, to)
-		if next == to {
+		low, _, next := readMember(s, to)
+		if low < 0 {
 			return None, at
 		}
 		to = next
@@ -175,17 +178,18 @@ func readSet(s string, at int) (Kind, int) {
 	return Set, to + 1
 }
 
-// readMember answers the place behind the member of a set that stands at a
-// place; that place itself if none does.
-func readMember(s string, at int) int {
+// readMember answers the least and the greatest byte of the member of a set
+// that stands at a place, and the place behind it; -1, -1 and the place itself
+// if none does.
+func readMember(s string, at int) (int, int, int) {
 	low, to := setChar(s, at)
 	if low < 0 || byteAt(s, to) != '-' {
-		return to
+		return low, low, to
 	}
 	high, end := setChar(s, to+1)
 	// What is no character is -1, so it is less than any low.
 	if high < low {
-		return at
+		return -1, -1, at
 	}
-	return end
+	return low, high, end
 }
