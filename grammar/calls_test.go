@@ -14,7 +14,7 @@ import (
 var texts = []string{
 	"", "a", "a <- 'x'", "a <- b b <- 'x'", "a <- a", "a <- ''*", "a <- ('x'* {}*)*", "a <- 'x' a <- 'y'", "a <- (", "a <- 'x", "a <- [b-a]",
 	"a <- b a1 c b <- c? 'x' c <- 'y' / !d 'z' d <- e e <- f f <- g g <- h h <- i i <- j j <- k k <- '' a1 <- k",
-	"a <- {'x'*} {} {n: 'y'?}", "s <- {'a' s? 'b'}", "s <- 'a' s 'a' / 'a'", "a <- b / c b <- a c <- b",
+	"a <- {'x'*} {} {n: 'y'?}", "a <- {n: {.}* {}} {}", "a <- {b b b} b <- {c c c} c <- {n: {} {'x'}?}", "s <- {'a' s? 'b'}", "s <- 'a' s 'a' / 'a'", "a <- b / c b <- a c <- b",
 	"sum <- {s: prod (('+' / '-') prod)*}\nprod <- {p: atom ([*/] atom)*}\natom <- {[0-9]+} / '(' sum ')'\n",
 }
 

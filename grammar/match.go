@@ -18,8 +18,7 @@ type matcher struct {
 // the note of none, 0, is not one of an answer.
 const noted = 2
 
-// Match: by the first rule, from a place on (P5). What is caught it does not
-// tell yet.
+// Match: by the first rule, from a place on (P5), and what is caught (P6).
 func (x *Grammar) Match(s string, at int) (int, string, bool, api.Errno) {
 	if len(s) > api.MaxSubject {
 		return 0, "", false, api.ErrLong
@@ -35,18 +34,25 @@ func (x *Grammar) Match(s string, at int) (int, string, bool, api.Errno) {
 	if to == fails {
 		return 0, "", false, api.OK
 	}
-	return to, "", true, api.OK
+	caught := m.caught(0, at)
+	return to, caught, true, api.OK
+}
+
+// note answers the number of the note of a term at a place, or fails if there
+// is no such term or place.
+func (m *matcher) note(i int, at int) int {
+	if i < 0 || i >= len(m.terms) || at < 0 || at > len(m.subject) {
+		return fails
+	}
+	return i*(len(m.subject)+1) + at
 }
 
 // match answers the place up to which a term matches at a place, or fails. It
 // ends, since no term comes back to itself at the same place: of a rule that
 // could Compile tells ErrLeft.
 func (m *matcher) match(i int, at int) int {
-	if i < 0 || i >= len(m.terms) || at < 0 || at > len(m.subject) {
-		return fails
-	}
-	note := i*(len(m.subject)+1) + at
-	if note >= len(m.notes) {
+	note := m.note(i, at)
+	if note < 0 || note >= len(m.notes) {
 		return fails
 	}
 	if m.notes[note] == 0 {

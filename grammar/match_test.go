@@ -254,7 +254,7 @@ func TestMatchesAtTheBounds(t *testing.T) {
 		want    int
 	}{
 		// Rules that name the next one many times, at one place.
-		{ring("&@&@&@&@&@&@&@&@&@&@&@&@ @", "'x'"), full, 1}, {ring("!!@!!@!!@!!@!!@!!@!!@!!@ @", "'x'"), full, 1}, {ring("@'y'/@'y'/@'y'/@'y'/@'y'", "'x'"), full, none}, {ring("@'y'/@'y'/@'y'/@'y'/@'y'/@", "'x'"), full, 1}, {ring("@ @ @ @ @ @ @ @ @ @ @ @ @", "''"), full, 0}, {ring("@ @ @ @ @ @ @ @ @ @ @ @ @", "'x'"), full, none}, {ring("@?@?@?@?@?@?@?@?@?@?@?@?", "'x'"), full, api.MaxSubject}, {ring("@?@?@?@?@?@?@?@?@?@?@?@?", "{}"), full, 0},
+		{ring("&@&@&@&@&@&@&@&@&@&@&@&@ @", "'x'"), full, 1}, {ring("!!@!!@!!@!!@!!@!!@!!@!!@ @", "'x'"), full, 1}, {ring("@'y'/@'y'/@'y'/@'y'/@'y'", "'x'"), full, none}, {ring("@'y'/@'y'/@'y'/@'y'/@'y'/@", "'x'"), full, 1}, {ring("@ @ @ @ @ @ @ @ @ @ @ @ @", "''"), full, 0}, {ring("@ @ @ @ @ @ @ @ @ @ @ @ @", "'x'"), full, none}, {ring("@?@?@?@?@?@?@?@?@?@?@?@?", "'x'"), full, api.MaxSubject},
 		// And from place to place, back to the first.
 		{ring("'x'@'y'/'x'@'z'/'x'@/'x'", "a"), full, api.MaxSubject}, {ring("'x'@'y'/'x'@'z'/'x'@/'y'", "a"), full, none}, {ring("'x'@'y'/'x'@'z'/'x'@/'y'", "a"), almost, api.MaxSubject}, {ring("&('x'@)'x'@/'x'/'y'", "a"), almost, api.MaxSubject}, {ring("!('x'@'z')'x'@/'x'/'y'", "a"), almost, api.MaxSubject}, {ring("'x'@ @/'x'@/'x'", "a"), full, api.MaxSubject},
 		{"s<-'x's'y'/'x's'z'/'x's'w'/'x's/'x'", full, api.MaxSubject}, {"s<-'x's s s/'x's s/'x's/'x'", full, api.MaxSubject}, {"s<-'x's s 'y'/'x's 'y'/'x's/'x'", full, api.MaxSubject},
